@@ -43,11 +43,11 @@ func Topics(l []api.Entry, term string) []int {
 
 // Follow: P9.4.
 func Follow(l []api.Entry, term string) []string {
-	next := map[string][]string{} // by Folds
-	for _, e := range l {
+	entries := map[string][]int{} // of each term, by its Fold, the numbers of those whose Sees count
+	for n, e := range l {
 		if e.Sub == "" {
 			from := text.Fold(e.Term)
-			next[from] = append(next[from], e.Sees...)
+			entries[from] = append(entries[from], n)
 		}
 	}
 	own := text.Fold(term)
@@ -56,11 +56,13 @@ func Follow(l []api.Entry, term string) []string {
 	for len(queue) > 0 {
 		at := queue[0]
 		queue = queue[1:]
-		for _, s := range next[at] {
-			to := text.Fold(s)
-			if _, ok := come[to]; !ok {
-				come[to] = struct{}{}
-				queue = append(queue, to)
+		for _, n := range entries[at] {
+			for _, s := range l[n].Sees {
+				to := text.Fold(s)
+				if _, ok := come[to]; !ok {
+					come[to] = struct{}{}
+					queue = append(queue, to)
+				}
 			}
 		}
 	}
